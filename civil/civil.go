@@ -6,6 +6,7 @@ import (
 	"strings"
 
 	"shiftbell/api"
+	"shiftbell/numeral"
 )
 
 const (
@@ -88,13 +89,13 @@ func Read(s string) (int, api.Errno) {
 	if len(s) != len("yyyy-mm-dd") || s[4] != '-' || s[7] != '-' {
 		return 0, api.ErrForm
 	}
-	y, yearRead := number(s[:4])
-	m, monthRead := number(s[5:7])
-	d, dayRead := number(s[8:])
+	y, yearRead := numeral.Digits(s[:4])
+	m, monthRead := numeral.Digits(s[5:7])
+	d, dayRead := numeral.Digits(s[8:])
 	if !yearRead || !monthRead || !dayRead {
 		return 0, api.ErrForm
 	}
-	return Days(y, m, d)
+	return Days(int(y), int(m), int(d))
 }
 
 func isYear(y int) bool { return y >= 1 && y <= api.MaxYear }
@@ -147,16 +148,4 @@ func monthOf(y, past int) (int, int) {
 func digits(n, width int) string {
 	s := strconv.Itoa(n)
 	return strings.Repeat("0", width-len(s)) + s
-}
-
-// number is not left to strconv, which would take a sign for a digit.
-func number(s string) (int, bool) {
-	n := 0
-	for i := 0; i < len(s); i++ {
-		if s[i] < '0' || s[i] > '9' {
-			return 0, false
-		}
-		n = n*10 + int(s[i]-'0')
-	}
-	return n, true
 }
