@@ -225,6 +225,22 @@ func TestNumbers(t *testing.T) {
 	}
 }
 
+// What other packages ask for: one amount by its name, of whatever need.
+func TestAmount(t *testing.T) {
+	for _, a := range append(wrong(), of(0, 0, 0), of(1, 20, 300), of(units, units-1, units-2)) {
+		for name, want := range map[string]int64{"cpu": a.Cpu, "mem": a.Mem, "gpu": a.Gpu} {
+			if n, ok := Amount(a, name); n != want || !ok {
+				t.Error(a, name, n, ok)
+			}
+		}
+		for _, name := range []string{"", "c", "cp", "cpux", "Cpu", "cpu=", " cpu", "disk", "cpumem", "cpu\x00"} {
+			if n, ok := Amount(a, name); n != 0 || ok {
+				t.Error(a, name, n, ok)
+			}
+		}
+	}
+}
+
 // P70: from 0 to MaxUnits of each.
 func TestCheck(t *testing.T) {
 	for _, a := range eachOf(0, 1, 77, units-1, units) {
