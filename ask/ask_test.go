@@ -485,6 +485,9 @@ func TestLabel(t *testing.T) {
 			want = api.OK
 			right++
 		}
+		if is := IsLabel(s); is != (want == api.OK) {
+			t.Errorf("%q %v", s, is)
+		}
 		for _, x := range []api.Ask{has(s), is(s, "a"), is("a", s), is(s, s), not(has(s)), and(has("a"), is("b", s))} {
 			if e := Check(x); e != want {
 				t.Errorf("%q %v", s, e)
